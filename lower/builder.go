@@ -15,6 +15,14 @@ type builder struct {
 	names map[string]int // nets by their names
 	nodes []api.Node
 	wides map[*api.Expr]int // own widths that are known
+	twins map[gate]int      // while a value is made at many widths: what need not be made again
+}
+
+// gate is what tells one node from another.
+type gate struct {
+	kind, op, wide, hi, lo int
+	value                  string
+	ins                    [3]int
 }
 
 // build makes the netlist. Why there is none is thrown as a panic, from however deep within.
@@ -91,10 +99,19 @@ func (b *builder) named(name string) int {
 }
 
 func (b *builder) add(n api.Node) int {
+	twin := gate{kind: n.Kind, op: n.Op, wide: n.Wide, hi: n.Hi, lo: n.Lo, value: n.Value}
+	copy(twin.ins[:], n.Ins)
+	few := len(n.Ins) <= len(twin.ins)
+	if node, there := b.twins[twin]; there && few {
+		return node
+	}
 	if len(b.nodes) == api.MaxNodes {
 		giveUp(api.ErrSize)
 	}
 	b.nodes = append(b.nodes, n)
+	if b.twins != nil && few {
+		b.twins[twin] = len(b.nodes) - 1
+	}
 	return len(b.nodes) - 1
 }
 

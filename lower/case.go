@@ -48,36 +48,30 @@ func (k *block) ways(x *api.Stmt, now, see known) []way {
 			other = k.stmts(arm.Body, now)
 			continue
 		}
-		wide := max(k.own(&x.Value), k.own(&arm.Label))
-		hit := k.same(asked(wide), k.expr(&arm.Label, wide, see))
+		wide := k.needed(x, i)
+		hit := k.same(asked[wide], k.expr(&arm.Label, wide, see))
 		ways = append(ways, way{when: k.operator(api.OpAnd, 1, hit, free), set: k.stmts(arm.Body, now)})
 		free = k.choose(hit, never, free)
 	}
 	return append(ways, way{when: free, set: other})
 }
 
-// asked gives the value of a case as wide as a label needs it. What can be cut is made once, as wide as any of them needs it: labels of many widths would make a long value many times.
-func (k *block) asked(x *api.Stmt, see known) func(wide int) int {
-	most := k.own(&x.Value)
+// asked is the nodes of a case's value, by the widths that its labels need it at.
+func (k *block) asked(x *api.Stmt, see known) map[int]int {
+	labels := map[int]int{}
 	for i := range x.Arms {
 		if !x.Arms[i].Default {
-			most = max(most, k.own(&x.Arms[i].Label))
+			labels[k.needed(x, i)]++
 		}
 	}
-	made := map[int]int{}
-	var give func(wide int) int
-	give = func(wide int) int {
-		node, there := made[wide]
-		switch {
-		case there:
-			return node
-		case wide < most && canBeCut(&x.Value):
-			node = k.fit(give(most), wide)
-		default:
-			node = k.expr(&x.Value, wide, see)
-		}
-		made[wide] = node
-		return node
+	wides := inOrder(labels)
+	if len(wides) == 1 {
+		return map[int]int{wides[0]: k.expr(&x.Value, wides[0], see)}
 	}
-	return give
+	return k.atEach(&x.Value, wides, see)
+}
+
+// needed is how wide a case's value and the label of one of its arms come.
+func (k *block) needed(x *api.Stmt, arm int) int {
+	return max(k.own(&x.Value), k.own(&x.Arms[arm].Label))
 }

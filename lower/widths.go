@@ -39,29 +39,3 @@ func (b *builder) netsOf(x *api.Expr) []api.Net {
 	}
 	return b.flat.Nets[net : net+1]
 }
-
-// canBeCut tells whether an expression that is needed at some widths is, at each of them, what it is at the greatest one, cut.
-func canBeCut(x *api.Expr) bool {
-	switch x.Op {
-	case api.OpAnd, api.OpOr, api.OpXor:
-		return canBeCut(&x.Kids[0]) && canBeCut(&x.Kids[1])
-	case api.OpNot, api.OpShl:
-		return canBeCut(&x.Kids[0])
-	case api.OpCond:
-		return canBeCut(&x.Kids[1]) && canBeCut(&x.Kids[2])
-	}
-	return knownAlike(x)
-}
-
-// knownAlike tells whether it can be cut and, what is more, is known at one width just if it is at each: a sum is x in all bits by any bit of its parts that is not known, also by one that a cut takes away.
-func knownAlike(x *api.Expr) bool {
-	switch x.Op {
-	case api.OpNot, api.OpNeg:
-		return knownAlike(&x.Kids[0])
-	case api.OpAdd, api.OpSub, api.OpXor:
-		return knownAlike(&x.Kids[0]) && knownAlike(&x.Kids[1])
-	case api.OpAnd, api.OpOr, api.OpShl, api.OpShr, api.OpCond:
-		return false
-	}
-	return true
-}
