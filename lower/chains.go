@@ -95,26 +95,28 @@ func (v *value) joined(op int, x *api.Expr, list []int) []int {
 	return v.joined(op, &x.Kids[1], v.joined(op, &x.Kids[0], list))
 }
 
-// join is the shape of some joined ones: those that can be cut stand together, and those that are shifted down as far are so as one.
+// join is the shape of some joined ones: those that can be cut stand together, and those that are shifted as far are so as one.
 func (v *value) join(op int, list []int) int {
+	list = fewer(op, list)
 	var once, others []int
-	shifted := map[int][]int{}
+	shifted := map[shape][]int{}
 	for _, id := range list {
 		s := v.shapes[id]
 		switch {
 		case v.class(id) != free:
 			once = append(once, id)
-		case s.op == api.OpShr:
-			shifted[s.node] = append(shifted[s.node], s.parts[0])
+		case s.op == api.OpShl || s.op == api.OpShr:
+			by := shape{op: s.op, node: s.node}
+			shifted[by] = append(shifted[by], s.parts[0])
 		default:
 			others = append(others, id)
 		}
 	}
 	for _, id := range list {
-		s := v.shapes[id]
-		if l := shifted[s.node]; v.class(id) == free && s.op == api.OpShr && len(l) > 0 {
-			others = append(others, v.shape(s.op, v.join(op, l), 0, s.node))
-			shifted[s.node] = nil
+		by := shape{op: v.shapes[id].op, node: v.shapes[id].node}
+		if l := shifted[by]; v.class(id) == free && len(l) > 0 {
+			others = append(others, v.shape(by.op, v.join(op, l), 0, by.node))
+			delete(shifted, by)
 		}
 	}
 	out := append(once, others...)
@@ -122,4 +124,27 @@ func (v *value) join(op int, list []int) int {
 		out[0] = v.shape(op, out[0], id, 0)
 	}
 	return out[0]
+}
+
+// fewer is the shapes that are enough to be joined: each once, if that is the same. One alone is joined with itself, since z becomes x by that; of OpXor two are nought, where they are known.
+func fewer(op int, list []int) []int {
+	count := map[int]int{}
+	for _, id := range list {
+		count[id]++
+	}
+	var out []int
+	for _, id := range list {
+		n := count[id]
+		count[id] = 0
+		switch {
+		case op == api.OpXor && n%2 == 0:
+			n = min(n, 2)
+		case n == len(list):
+			n = min(n, 3)
+		default:
+			n = min(n, 1)
+		}
+		out = append(out, slices.Repeat([]int{id}, n)...)
+	}
+	return out
 }

@@ -109,13 +109,22 @@ func TestLw2ManyWidths(t *testing.T) {
 		"(a - b >> c)" + times(20, " << c"), "(~d >> c)" + times(12, " << c << a << 1'b0 >> c"), "~d" + times(15, " >> (c ^ a[0])"),
 		"a" + times(20, " >> 1'bx >> c"), "~a" + times(20, " >> c") + " >> 2'bz1" + times(5, " >> a"), "~d >> 1'bx" + times(20, " << c >> 1"), "~d" + times(20, " >> 0") + " >> a",
 		"(~a >> b)" + times(20, " + (~a >> b)"), "(~a >> b)" + times(9, " - (~a >> b) + d"), "a - (~a >> b)" + times(9, " + a - (~d >> c)"), "(~a >> c) - (~a >> c)", "-(~a >> c) - b",
-		"~a >> b" + times(20, " | ~a >> b"), "~a >> b" + times(20, " ^ ~d >> b"), "~a >> b" + times(20, " & ~d >> c & d"), "(~a >> b ^ d)" + times(3, " ^ (~a >> b ^ d)"), "~a >> b ^ ~a >> b", "~a >> b ^ ~a >> b ^ ~a >> b",
-		"(~a >> b) & d | ~(~a >> c)", "c ? ~a >> b : d", "(c ? ~a : d) >> b", "~(~a >> b) + 1'b1", "(a & -d) + b", "(a & -d >> 1) + b", "(a | ~d) + b", "-(-a)", "d + (a >> b) + (a >> b)", "(a >> 1 >> b) + d", "((a + d) >> b) + d", "((a << b) >> b) + d",
+		"~a >> b" + times(20, " | ~a >> b"), "~a >> b" + times(20, " ^ ~d >> b"), "~a >> b" + times(20, " & ~d >> c & d"), "(~a >> b ^ d)" + times(3, " ^ (~a >> b ^ d)"), "(-a >> b) - c" + times(4, " ^ (-a >> b) - c"), "(-a >> b) - c" + times(4, " | (-a >> b) - c"), "(-a >> b) - c & (-a >> b) - c", "~a >> b << c" + times(5, " | ~d >> b << c") + " | ~a >> d << c", "~d >> b << c" + times(5, " & ~d >> b << b"), "~a >> b ^ ~a >> b", "~a >> b ^ ~a >> b ^ ~a >> b",
+		"(d << b >> c) | (d << b >> c)", "(d << b >> c) & (d << b >> c) & (d << b >> c)", "(d << b >> c) ^ (d << b >> c) ^ (d << b >> c)", "(~a >> b) & d | ~(~a >> c)", "c ? ~a >> b : d", "(c ? ~a : d) >> b", "~(~a >> b) + 1'b1", "(a & -d) + b", "(a & -d >> 1) + b", "(a | ~d) + b", "-(-a)", "d + (a >> b) + (a >> b)", "(a >> 1 >> b) + d", "((a + d) >> b) + d", "((a << b) >> b) + d",
 		"(a << 9) >> 9", "(a ^ -d) + b", "(c ? a : d) + b", "(c ? ~a : d) + b", "-(a >> b) >> b", "a >> (a + b) << e >> e",
 	} {
 		compared(t, m, x, 30, 25)
 		compared(t, m, x, 3, 10)
 		compared(t, m, "("+x+") ^ a", 12, 10)
+	}
+}
+
+func TestLw1SmallValuesOfMoreWidths(t *testing.T) {
+	for _, unit := range []string{"-(~a >> c)", "~(a + d >> c)", "((~a >> c) + d >> c)", "(c ? ~a >> c : d)", "(~a >> c << d)", "(~a >> c << d >> 1)", "(~a >> (c + d))", "~(-d >> a[c])"} {
+		for _, sign := range []string{" + ", " - ", " & ", " | ", " ^ "} {
+			n := 180 / (strings.Count(unit, " ") + 5)
+			small(t, unit+sign, "module m(input c, input [1:0] a, input [2:0] d, output reg q); always @(posedge c) case ("+joined(n, sign, unit)+") "+many(200)+"default: q <= 1; endcase endmodule")
+		}
 	}
 }
 
