@@ -1,10 +1,9 @@
 package conserv
 
 import (
-	"cmp"
 	"silkworm/api"
+	"silkworm/joint"
 	"silkworm/lp"
-	"slices"
 )
 
 // runner is the processes of a netlist's parts, and the channels between them.
@@ -14,17 +13,16 @@ type runner struct {
 	channels  []*channel
 }
 
-// newRunner is all processes ahead of the time 0. The first one is made whatever the parts are: what may not be is told by it.
+// newRunner is all processes ahead of the time 0.
 func newRunner(l api.Netlist, p api.Parts, stim []api.Change, horizon int) (*runner, api.Errno) {
-	r := &runner{of: p.Of}
-	for k := range max(p.N, 1) {
-		x, e := lp.New(l, p, k, stim, horizon)
-		if e != api.OK {
-			return nil, e
-		}
-		r.processes = append(r.processes, &process{Process: x, outs: make([]*channel, p.N), last: horizon + 1})
+	list, e := joint.Processes(l, p, stim, horizon)
+	if e != api.OK {
+		return nil, e
 	}
-	r.channels = newChannels(p)
+	r := &runner{of: p.Of, channels: newChannels(p)}
+	for k := range len(list) {
+		r.processes = append(r.processes, &process{Process: list[k], outs: make([]*channel, p.N), last: horizon + 1})
+	}
 	for i := range len(r.channels) {
 		c := r.channels[i]
 		r.processes[c.from].outs[c.to] = c
@@ -47,16 +45,11 @@ func (r *runner) do(script []api.Pick) api.Errno {
 func (r *runner) pick(p api.Pick) api.Errno {
 	switch p.Kind {
 	case kindGo:
-		return r.processes[modulo(p.N, len(r.processes))].goOn(r.of)
+		return r.processes[joint.Modulo(p.N, len(r.processes))].goOn(r.of)
 	case kindOne, kindAll:
 		return r.come(p)
 	}
 	return api.OK
-}
-
-// modulo takes a number below 0 as one without sign.
-func modulo(n, count int) int {
-	return int(uint64(n) % uint64(count))
 }
 
 // come lets the first message of a channel come, or all that are on it.
@@ -64,7 +57,7 @@ func (r *runner) come(p api.Pick) api.Errno {
 	if len(r.channels) == 0 {
 		return api.OK
 	}
-	c := r.channels[modulo(p.N, len(r.channels))]
+	c := r.channels[joint.Modulo(p.N, len(r.channels))]
 	count := len(c.messages)
 	if p.Kind == kindOne {
 		count = min(count, 1)
@@ -96,24 +89,11 @@ func (r *runner) bound() int {
 	return time
 }
 
-// wave is what the processes tell together ahead of a time. Its nets have no names.
+// wave is what the processes tell together ahead of a time.
 func (r *runner) wave(l api.Netlist, end int) api.Wave {
-	w := api.Wave{Names: make([]string, len(l.Nets)), First: make([]string, len(l.Nets))}
-	for _, n := range l.Nets {
-		w.Wides = append(w.Wides, l.Nodes[n].Wide)
+	var list []*lp.Process
+	for _, x := range r.processes {
+		list = append(list, x.Process)
 	}
-	for k, x := range r.processes {
-		for net, v := range x.First() {
-			if r.of[l.Nets[net]] == k {
-				w.First[net] = v
-			}
-		}
-		for _, c := range x.Changes(0) {
-			if c.Time < end {
-				w.List = append(w.List, c)
-			}
-		}
-	}
-	slices.SortFunc(w.List, func(a, b api.Change) int { return cmp.Or(cmp.Compare(a.Time, b.Time), cmp.Compare(a.Net, b.Net)) })
-	return w
+	return joint.Wave(l, r.of, list, end)
 }

@@ -23,8 +23,8 @@ const (
 
 var (
 	library = strings.Fields("bytes cmp container/heap errors iter maps math math/bits slices sort strconv strings sync sync/atomic unicode unicode/utf8")
-	// The layers, and gates, which stands between two of them.
-	layers = strings.Fields("api logic lexer pre syntax printer consts sema elab lower gates opt level engine part event lp conserv warp wave vcd stats shell")
+	// The layers, and gates and joint, which stand between some of them.
+	layers = strings.Fields("api logic lexer pre syntax printer consts sema elab lower gates opt level engine part event lp joint conserv warp wave vcd stats shell")
 )
 
 // program is the Go files of the program, tests left out, by their paths from the project's root on.
