@@ -132,7 +132,7 @@ func mills(x float64) string {
 	return strconv.Itoa(n)
 }
 
-func (s *session) print(words []string) {
+func (s *session) printSource(words []string) {
 	expect(words, 0)
 	modules, why := modulesOf(s.theSource())
 	if len(why) > 0 {

@@ -34,7 +34,7 @@ func (s *session) commands() map[string]func(words []string) {
 		"conserv": s.conserv,
 		"warp":    s.warp,
 		"stats":   s.stats,
-		"print":   s.print,
+		"print":   s.printSource,
 	}
 }
 
