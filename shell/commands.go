@@ -2,7 +2,6 @@ package shell
 
 import (
 	"silkworm/api"
-	"silkworm/part"
 	"silkworm/printer"
 	"silkworm/stats"
 	"silkworm/vcd"
@@ -79,17 +78,17 @@ func (s *session) run(words []string) {
 }
 
 func (s *session) conserv(words []string) {
-	d, p, horizon := s.inParts(words)
-	s.dump(d.byWaiting(p, horizon))
+	d, count, horizon := s.inParts(words)
+	s.dump(d.inParallel(count, horizon, d.byWaiting))
 }
 
 func (s *session) warp(words []string) {
-	d, p, horizon := s.inParts(words)
-	s.dump(d.byGoingAhead(p, horizon))
+	d, count, horizon := s.inParts(words)
+	s.dump(d.inParallel(count, horizon, d.byGoingAhead))
 }
 
-// inParts is what both ways to simulate in parallel are told: a design, its parts, and a horizon.
-func (s *session) inParts(words []string) (*design, api.Parts, int) {
+// inParts is what both ways to simulate in parallel are told: a design, how many parts it may have, and a horizon.
+func (s *session) inParts(words []string) (*design, int, int) {
 	expect(words, 2)
 	count, horizon := number(words[0]), number(words[1])
 	d := s.theDesign()
@@ -97,9 +96,7 @@ func (s *session) inParts(words []string) (*design, api.Parts, int) {
 		giveUp(api.ErrArg)
 	}
 	checkHorizon(horizon)
-	p, e := part.Run(d.netlist, count)
-	demand(e)
-	return d, p, horizon
+	return d, count, horizon
 }
 
 func (s *session) stats(words []string) {

@@ -6,6 +6,7 @@ import (
 	"silkworm/conserv"
 	"silkworm/engine"
 	"silkworm/logic"
+	"silkworm/part"
 	"silkworm/warp"
 	"slices"
 )
@@ -66,6 +67,17 @@ func (d *design) inOrder(horizon int) api.Wave {
 	w, e := engine.Run(d.netlist, d.stimulus, horizon)
 	demand(e)
 	return d.named(w)
+}
+
+// inParallel is the waveform that processes make together, of so many parts at the most.
+func (d *design) inParallel(count, horizon int, way func(api.Parts, int) api.Wave) api.Wave {
+	// Without nodes there is nothing that could be parted, but a waveform all the same.
+	if len(d.netlist.Nodes) == 0 {
+		return d.inOrder(horizon)
+	}
+	p, e := part.Run(d.netlist, count)
+	demand(e)
+	return way(p, horizon)
 }
 
 // byWaiting is the waveform of processes that wait, which so many rounds make whole.

@@ -55,6 +55,70 @@ func TestSh2(t *testing.T) {
 	}
 }
 
+// Sh2: a design without ports has a waveform without nets, also if no node of it is left: then there are no parts, and still all ways put out the same.
+func TestSh2WithoutNodes(t *testing.T) {
+	want := dumpOf("", "", "")
+	for source, nodesLeft := range map[string]bool{
+		"module m(); endmodule":                                                   false,
+		"module m(); wire n; endmodule":                                           false,
+		"module m(); wire n; assign n = 1; endmodule":                             false,
+		"module m(); wire n; assign n = ~n; endmodule":                            false,
+		"module m(); wire n, k; assign #2 n = ~n; assign k = n; endmodule":        false,
+		"module m(); reg n; wire c; always @(posedge c) n <= ~n; endmodule":       false,
+		"module m(); s u (); endmodule module s(); wire n; assign n=0; endmodule": false,
+		"module m(output y); endmodule":                                           true,
+		"module m(input a); endmodule":                                            true,
+	} {
+		_, l, d := shell.Compile(source, "m", []string{"dead"})
+		if len(d) > 0 || (len(l.Nodes) > 0) != nodesLeft {
+			t.Fatalf("%s: %v, %v", source, l, d)
+		}
+		if nodesLeft {
+			continue
+		}
+		head := sourced(source+"\n") + "build m dead\n"
+		for parts := 1; parts <= api.MaxParts; parts++ {
+			runs(t, fmt.Sprintf("%sconserv %d 200\nwarp %d 9\n", head, parts, parts), "ok\nok\n"+want+want)
+		}
+		for horizon := range 201 {
+			runs(t, fmt.Sprintf("%srun %d\nconserv 2 %d\nwarp 64 %d\nstats * 1\nrun 0\n", head, horizon, horizon, horizon), "ok\nok\n"+want+want+want+"0 0 nan nan inf -inf\n"+want)
+		}
+	}
+}
+
+// Sh2: a made-up design within a module without ports, of which some passes leave no node.
+func TestSh2Within(t *testing.T) {
+	d := dice(12)
+	none, some := 0, 0
+	for range 60 {
+		source, ports := makeSource(&d)
+		source += within(ports)
+		passes := makePasses(&d)
+		_, l, _ := shell.Compile(source, "bare", strings.Fields(passes))
+		if len(l.Nodes) == 0 {
+			none++
+		} else {
+			some++
+		}
+		for _, way := range ways {
+			runs(t, fmt.Sprintf("%sbuild bare%s\n%s %d\n", sourced(source), passes, way, d.roll(40)), "ok\nok\n"+dumpOf("", "", ""))
+		}
+	}
+	if none < 10 || some < 10 {
+		t.Error(none, some)
+	}
+}
+
+// within is a module bare without ports that has an instance of m.
+func within(ports []port) string {
+	nets, binds := "", []string{}
+	for _, p := range ports {
+		nets += fmt.Sprintf("wire [%d:0] %s;\n", p.wide-1, p.name)
+		binds = append(binds, fmt.Sprintf(".%s(%s)", p.name, p.name))
+	}
+	return "module bare();\n" + nets + "m u (" + strings.Join(binds, ", ") + ");\nendmodule\n"
+}
+
 // dumps tells that a text is a dump of the ports, up to a horizon (P5).
 func dumps(t *testing.T, text string, ports []port, horizon int) {
 	t.Helper()

@@ -12,7 +12,6 @@ import (
 	"silkworm/logic"
 	"silkworm/lower"
 	"silkworm/opt"
-	"silkworm/part"
 	"silkworm/pre"
 	"silkworm/printer"
 	"silkworm/stats"
@@ -43,9 +42,9 @@ func pattern(words ...string) *regexp.Regexp {
 var rules = []rule{
 	{pattern("build", word+"((?: +[^ ]+)*)"), (*model).build},
 	{pattern("set", digits, word, word), (*model).set},
-	{pattern("run", digits), func(m *model, w []string) (string, api.Errno) { return m.simulate("1", w[0], false) }},
-	{pattern("conserv", digits, digits), func(m *model, w []string) (string, api.Errno) { return m.simulate(w[0], w[1], true) }},
-	{pattern("warp", digits, digits), func(m *model, w []string) (string, api.Errno) { return m.simulate(w[0], w[1], true) }},
+	{pattern("run", digits), func(m *model, w []string) (string, api.Errno) { return m.simulate("1", w[0]) }},
+	{pattern("conserv", digits, digits), func(m *model, w []string) (string, api.Errno) { return m.simulate(w[0], w[1]) }},
+	{pattern("warp", digits, digits), func(m *model, w []string) (string, api.Errno) { return m.simulate(w[0], w[1]) }},
 	{pattern("stats", word, digits), (*model).numbers},
 	{pattern("print"), (*model).print},
 }
@@ -211,7 +210,7 @@ func (m *model) wave(b built, horizon int) (api.Wave, api.Errno) {
 	return w, e
 }
 
-func (m *model) simulate(parts, horizon string, parted bool) (string, api.Errno) {
+func (m *model) simulate(parts, horizon string) (string, api.Errno) {
 	b, ok := m.design()
 	if !ok {
 		return "", api.ErrNone
@@ -220,11 +219,6 @@ func (m *model) simulate(parts, horizon string, parted bool) (string, api.Errno)
 	end, _ := strconv.Atoi(horizon)
 	if n < 1 || n > 64 || end > 200 {
 		return "", api.ErrArg
-	}
-	if parted {
-		if _, e := part.Run(b.list, n); e != api.OK {
-			return "", e
-		}
 	}
 	w, e := m.wave(b, end)
 	if e != api.OK {

@@ -102,7 +102,18 @@ func TestSh1SourceWithoutEnd(t *testing.T) {
 // What the layers refuse is told by their numbers.
 func TestSh1CallsRefuse(t *testing.T) {
 	runs(t, "source\nmodule m(output _); endmodule\n.\nbuild m\nrun 5\nconserv 1 5\nwarp 1 5\nstats _ 5\n", "ok\nok\nout _ 1\n! 1\n! 1\n! 1\n0 0 nan nan inf -inf\n")
-	runs(t, "source\nmodule m(); endmodule\n.\nbuild m\nrun 5\nconserv 1 5\nwarp 64 0\nconserv 65 5\nstats * 5\n", "ok\nok\n"+dumpOf("", "", "")+"! 1\n! 1\n! 1\n0 0 nan nan inf -inf\n")
+}
+
+// Without nodes there are no parts, but what is wrong about a number of them, or a horizon, is refused as ever.
+func TestSh1WithoutNodesRefuses(t *testing.T) {
+	head := "source\nmodule m(); wire n; assign n = 1; endmodule\n.\nbuild m dead\n"
+	for _, way := range []string{"conserv", "warp"} {
+		for words, want := range map[string]string{"0 5": argErr, "65 5": argErr, "1000000000 0": argErr, "1 201": argErr, "64 1000000000": argErr, "0 201": argErr, "5": lineErr, "1 5 5": lineErr, "01 5": lineErr, "1 05": lineErr} {
+			answers(t, head, way+" "+words, want)
+		}
+	}
+	answers(t, head, "set 0 n 1", argErr)
+	answers(t, head, "stats * 5", "0 0 nan nan inf -inf\n")
 }
 
 // manyLate is a design whose output turns at each time, and so do many delays that are behind it.
